@@ -178,26 +178,33 @@ func isValidForTest(m impl.Map) bool {
 	return hasExactDeterminant(m)
 }
 
-// tidyForTest makes wide parts tidy; the code is ErrLimit if they are no map.
-func tidyForTest(parts [4]wideNumber) (impl.Map, int64) {
+// tidyReals makes wide parts tidy.
+func tidyReals(parts []*big.Float) []float32 {
 	greatestExponent, isZero := 0, true
-	for _, x := range parts {
-		for _, part := range []*big.Float{x.a, x.b} {
-			exponent := part.MantExp(nil)
-			if part.Sign() != 0 && (isZero || exponent > greatestExponent) {
-				greatestExponent, isZero = exponent, false
-			}
+	for _, part := range parts {
+		exponent := part.MantExp(nil)
+		if part.Sign() != 0 && (isZero || exponent > greatestExponent) {
+			greatestExponent, isZero = exponent, false
 		}
 	}
-	scaled := func(x *big.Float) *big.Float { return new(big.Float).SetMantExp(x, 1-greatestExponent) }
-	var tidy [4]complex64
-	for i, x := range parts {
-		tidy[i] = wideNumber{scaled(x.a), scaled(x.b)}.narrowed()
+	tidy := make([]float32, len(parts))
+	for i, part := range parts {
+		tidy[i] = narrowOf(new(big.Float).SetMantExp(part, 1-greatestExponent))
 	}
-	if !isValidForTest(mapOf(tidy)) {
+	return tidy
+}
+
+// tidyForTest makes wide parts tidy; the code is ErrLimit if they are no map.
+func tidyForTest(parts [4]wideNumber) (impl.Map, int64) {
+	var reals []*big.Float
+	for _, x := range parts {
+		reals = append(reals, x.a, x.b)
+	}
+	m := mapOfReals([8]float32(tidyReals(reals)))
+	if !isValidForTest(m) {
 		return impl.Map{}, impl.ErrLimit
 	}
-	return mapOf(tidy), impl.OK
+	return m, impl.OK
 }
 
 // wideDeterminant0 is valid, but its wide determinant is 0: both products are rounded to the same number.
