@@ -131,26 +131,33 @@ func TestApplyAllLimits(t *testing.T) {
 	wantSpots(t, "ApplyAll to many spots", list, code, nil, impl.ErrLimit)
 }
 
+// stretchForTest tells by how much a map stretches at a finite point, and whether this is found.
+func stretchForTest(m impl.Map, x complex64) (float32, bool) {
+	w := wideParts(m)
+	below := w[2].times(widePoint(x)).plus(w[3])
+	if below.isZero() {
+		return 0, false
+	}
+	size := wideRoot(determinantForTest(m).squares())
+	stretch := narrowOf(wideOver(size, below.squares()))
+	if !isFinite(stretch) {
+		return 0, false
+	}
+	return stretch, true
+}
+
 func TestStretchAt(t *testing.T) {
 	random := rand.New(rand.NewSource(112))
 	points := append(finitePoints(edgePoints()), 1, -1, 1i, 2.5-0.5i)
 	for _, m := range manyMaps(random, 100) {
-		w := wideParts(m)
-		size := wideRoot(determinantForTest(m).squares())
 		for _, x := range points {
-			name := "StretchAt " + mapBits(m) + " and " + bitsText(x)
 			got, code := impl.StretchAt(m, x)
-			below := w[2].times(widePoint(x)).plus(w[3])
-			if below.isZero() {
-				wantReal(t, name, got, code, 0, impl.ErrState)
-				continue
+			want, isFound := stretchForTest(m, x)
+			wantCode := int64(impl.ErrState)
+			if isFound {
+				wantCode = impl.OK
 			}
-			want := narrowOf(wideOver(size, below.squares()))
-			if !isFinite(want) {
-				wantReal(t, name, got, code, 0, impl.ErrState)
-				continue
-			}
-			wantReal(t, name, got, code, want, impl.OK)
+			wantReal(t, "StretchAt "+mapBits(m)+" and "+bitsText(x), got, code, want, wantCode)
 		}
 	}
 }
