@@ -1,7 +1,6 @@
 package tests
 
 import (
-	"fmt"
 	"math/rand"
 	"reflect"
 	"slices"
@@ -41,18 +40,7 @@ func TestResultsOfOrbits(t *testing.T) {
 		w := randomWord(random, 1+random.Intn(4), random.Intn(4))
 		n := random.Int63n(9) - 1
 		copied := impl.Family{Maps: slices.Clone(maps)}
-		again := orbitFunctions(copied, s, to, x, a, w, n)
-		for name, call := range orbitFunctions(f, s, to, x, a, w, n) {
-			first, firstCode := call()
-			second, secondCode := again[name]()
-			if firstCode != secondCode || fmt.Sprint(first) != fmt.Sprint(second) {
-				t.Errorf("%s: first %v and %d, then %v and %d", name, first, firstCode, second, secondCode)
-			}
-			if firstCode != impl.OK && !areZero(first) {
-				t.Errorf("%s: got %v and %s", name, first, impl.CodeName(firstCode))
-			}
-			codes[firstCode]++
-		}
+		checkCalls(t, orbitFunctions(f, s, to, x, a, w, n), orbitFunctions(copied, s, to, x, a, w, n), codes)
 		if !isKept() || !sameFamilies(f, copied) {
 			t.Fatal("a family was changed")
 		}

@@ -147,6 +147,22 @@ func areZero(results []any) bool {
 	return !slices.ContainsFunc(results, func(result any) bool { return !reflect.ValueOf(result).IsZero() })
 }
 
+// checkCalls checks that equal calls have equal results, and that what comes with an error is zero, and counts the codes.
+func checkCalls(t *testing.T, calls, again map[string]func() ([]any, int64), codes map[int64]int) {
+	t.Helper()
+	for name, call := range calls {
+		first, firstCode := call()
+		second, secondCode := again[name]()
+		if firstCode != secondCode || fmt.Sprint(first) != fmt.Sprint(second) {
+			t.Errorf("%s: first %v and %d, then %v and %d", name, first, firstCode, second, secondCode)
+		}
+		if firstCode != impl.OK && !areZero(first) {
+			t.Errorf("%s: got %v and %s", name, first, impl.CodeName(firstCode))
+		}
+		codes[firstCode]++
+	}
+}
+
 func TestNoWordsAreInvalid(t *testing.T) {
 	for _, w := range invalidWords() {
 		for _, u := range []string{"", "ab", w} {
