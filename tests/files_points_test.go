@@ -2,6 +2,7 @@ package tests
 
 import (
 	"bytes"
+	"encoding/binary"
 	"fmt"
 	"math"
 	"math/rand"
@@ -76,8 +77,8 @@ func seekForTest(list []impl.Frame, k int64) (complex64, []int64, int64) {
 	if !isSoundForTest(list[0], 0) {
 		return 0, nil, impl.ErrProof
 	}
-	count := int64(list[0][6])<<8 | int64(list[0][7])
-	if count > 256 || !bytes.Equal(list[0][:12], headBytes("MPN", 1, uint32(count), uint32(8*count))) {
+	count := int64(binary.BigEndian.Uint32(list[0][4:]))
+	if count >= 1<<29 || !bytes.Equal(list[0][:12], headBytes("MPN", 1, uint32(count), uint32(8*count))) {
 		return 0, nil, impl.ErrSyntax
 	}
 	if k < 0 || k >= count {
@@ -272,15 +273,55 @@ func TestSeekPointOfOtherHeads(t *testing.T) {
 			wantSeekCode(t, fmt.Sprint("the numbers ", numbers), with("MPN", 1, numbers[0], numbers[1]), k, impl.ErrSyntax)
 		}
 	}
-	// No file has a count as great as that.
-	many := fileForTest(1, 257, make([]byte, 2056))
-	wantSeekCode(t, "too great a count", many, 0, impl.ErrSyntax)
 	wantSeekCode(t, "the greatest count", fileForTest(1, 256, make([]byte, 2048)), 255, impl.OK)
 	wantSeekCode(t, "more than is there", with("MPN", 1, 5, 40), 2, impl.OK)
 	wantSeekCode(t, "more than is there", with("MPN", 1, 5, 40), 3, impl.ErrSyntax)
 	wantSeekCode(t, "more than is there", with("MPN", 1, 5, 40), 5, impl.ErrRange)
 	wantSeekCode(t, "less than is there", with("MPN", 1, 2, 16), 2, impl.ErrRange)
 	wantSeekCode(t, "no point", with("MPN", 1, 0, 0), 0, impl.ErrRange)
+}
+
+// No file has such counts, but SeekPoint asks for the form of the head alone.
+func TestSeekPointOfGreatCounts(t *testing.T) {
+	three := keysOf([]complex64{1, 2i, -3})
+	for _, count := range []uint32{257, 258, 300, 512, 1023, 1024, 1025, 1 << 16, 1 << 20, 1<<24 + 3, 1 << 28, 1<<29 - 1} {
+		name := fmt.Sprint("the count ", count)
+		list := soundFrames(slices.Concat(headBytes("MPN", 1, count, 8*count), three))
+		for k := range int64(3) {
+			wantSeekCode(t, name, list, k, impl.OK)
+		}
+		for _, k := range []int64{3, 4, 1 << 32, int64(count) - 1} {
+			want := int64(impl.ErrSyntax)
+			if k >= int64(count) {
+				want = impl.ErrRange
+			}
+			wantSeekCode(t, name, list, k, want)
+		}
+		for _, k := range []int64{-1, int64(count), int64(count) + 1, math.MinInt64, math.MaxInt64} {
+			wantSeekCode(t, name, list, k, impl.ErrRange)
+		}
+		wantSeekCode(t, name+", broken", spoiltAt(list, 1), 0, impl.ErrProof)
+		for _, size := range []uint32{8*count - 1, 8*count + 1, 0, 2400 + 8, 8192} {
+			if size != 8*count {
+				other := soundFrames(slices.Concat(headBytes("MPN", 1, count, size), three))
+				wantSeekCode(t, name+" with other bytes", other, 0, impl.ErrSyntax)
+			}
+		}
+		wantSeekCode(t, name+" of words", soundFrames(slices.Concat(headBytes("MPN", 3, count, 8*count), three)), 0, impl.ErrSyntax)
+		wantUnpackCode(t, name, list, impl.ErrSyntax)
+		wantReadCode(t, name, list, impl.ErrSyntax)
+	}
+	// All 2056 bytes are there, and so are the 8388 of MaxFrames frames.
+	for _, points := range []int64{257, 1048} {
+		full := fileForTest(1, int(points), keysOf(randomPoints(rand.New(rand.NewSource(733)), int(points))))
+		name := fmt.Sprint(points, " points")
+		for _, k := range []int64{0, 255, 256, points - 1} {
+			wantSeekCode(t, name, full, k, impl.OK)
+		}
+		wantSeekCode(t, name, full, points, impl.ErrRange)
+		wantUnpackCode(t, name, full, impl.ErrSyntax)
+		wantReadCode(t, name, full, impl.ErrSyntax)
+	}
 }
 
 func TestSeekPointErrors(t *testing.T) {
