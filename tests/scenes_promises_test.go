@@ -118,24 +118,29 @@ func TestResultsOfScenesAreNew(t *testing.T) {
 	}
 }
 
+// oddScene has any fields in any of its operations.
+func oddScene(random *rand.Rand) impl.Scene {
+	s := sceneOf(randomPart(random))
+	for range random.Intn(10) {
+		o := impl.Op{Kind: random.Int63n(6), Spot: impl.Spot{Far: random.Intn(4) == 0, At: randomPoint(random)}, Depth: random.Int63n(15) - 1, Small: randomPart(random), Centre: randomPoint(random), Radius: randomPart(random)}
+		if random.Intn(2) == 0 {
+			o.Family = anyFamily(random, 5)
+		}
+		if random.Intn(3) > 0 {
+			o = [](func() impl.Op){
+				func() impl.Op { return orbitOp(o.Family, o.Spot, o.Depth) }, func() impl.Op { return limitOp(o.Family, o.Spot, o.Depth) },
+				func() impl.Op { return leavesOp(o.Family, o.Spot.At, o.Small, o.Depth) }, func() impl.Op { return discOp(o.Centre, o.Radius) },
+			}[random.Intn(4)]()
+		}
+		s.Ops = append(s.Ops, o)
+	}
+	return s
+}
+
 func TestSceneFunctionsReturnForAllArguments(t *testing.T) {
 	random := rand.New(rand.NewSource(651))
 	for range 1500 {
-		var s impl.Scene
-		s.Side = randomPart(random)
-		for range random.Intn(10) {
-			o := impl.Op{Kind: random.Int63n(6), Spot: impl.Spot{Far: random.Intn(4) == 0, At: randomPoint(random)}, Depth: random.Int63n(15) - 1, Small: randomPart(random), Centre: randomPoint(random), Radius: randomPart(random)}
-			if random.Intn(2) == 0 {
-				o.Family = anyFamily(random, 5)
-			}
-			if random.Intn(3) > 0 {
-				o = [](func() impl.Op){
-					func() impl.Op { return orbitOp(o.Family, o.Spot, o.Depth) }, func() impl.Op { return limitOp(o.Family, o.Spot, o.Depth) },
-					func() impl.Op { return leavesOp(o.Family, o.Spot.At, o.Small, o.Depth) }, func() impl.Op { return discOp(o.Centre, o.Radius) },
-				}[random.Intn(4)]()
-			}
-			s.Ops = append(s.Ops, o)
-		}
+		s := oddScene(random)
 		c := impl.Cell{int32(random.Uint32()), int32(random.Uint32())}
 		for _, call := range sceneFunctions(s, random.Int63()-random.Int63(), c, impl.Corner(c), anyWord(random)) {
 			call()
