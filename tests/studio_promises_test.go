@@ -98,16 +98,13 @@ func TestResultsOfStudiosAreNew(t *testing.T) {
 	for _, d := range deeds {
 		w.do(d)
 	}
-	// Shelves and hands in one list would be changed by what is appended to the other one.
 	for range 3 {
 		h, done, code := impl.HouseAfter(s, deeds)
 		wantHouse(t, "HouseAfter", h, done, code, w.house(), int64(len(deeds)), impl.OK)
-		for _, list := range [][]impl.Drawn{h.Drawn[:cap(h.Drawn)]} {
-			for i := range list {
-				list[i] = impl.Drawn{At: impl.Corner{7, 7}}
-			}
+		drawn, shelves, hands, wire := h.Drawn[:cap(h.Drawn)], h.Shelves[:cap(h.Shelves)], h.Hands[:cap(h.Hands)], h.Wire[:cap(h.Wire)]
+		for i := range drawn {
+			drawn[i] = impl.Drawn{At: impl.Corner{7, 7}}
 		}
-		shelves, hands, wire := h.Shelves[:cap(h.Shelves)], h.Hands[:cap(h.Hands)], h.Wire[:cap(h.Wire)]
 		for i := range shelves {
 			shelves[i] = impl.Shelf{Mask: fullMask()}
 		}

@@ -87,6 +87,15 @@ func TestScriptsByHand(t *testing.T) {
 	wantScript(t, twinStudio(3), draws(6)+"drawn; count; keys", strings.Repeat("ok; ", 24)+"6 0 3; 5; aa0559e690b5e0a06f1a1d9b57f315a7 "+a+" "+impl.KeyText(maskKeyForTest(impl.Mask{2})))
 }
 
+// There are numbers of two digits, also of shelves.
+func TestScriptsOfGreatStudios(t *testing.T) {
+	low, high := impl.Corner{-3, -2}, impl.Corner{2, 1}
+	wantScript(t, studioOf(sceneOf(1), low, high, 1), draws(12)+"drawn; sync; "+draws(12)+"drawn; crash; drawn", strings.Repeat("ok; ", 48)+"12 0 1; ok; "+strings.Repeat("ok; ", 48)+"24 12 1; ok; 12 12 1")
+	// The great disc has 8 blocks, all of which differ, the others have one each, and there are blocks without cells.
+	s := studioOf(sceneOf(1, discOp(0.3+0.1i, 17), discOp(40+24i, 3), discOp(-40-24i, 2)), low, high, 1)
+	wantScript(t, s, draws(24)+"drawn; sync; drawn; crash; drawn; count", strings.Repeat("ok; ", 96)+"24 0 11; ok; 24 24 11; ok; 24 24 11; "+fmt.Sprint(len(sketchOf(s.Scene).cells)))
+}
+
 func TestLinesOfScripts(t *testing.T) {
 	s := exampleStudio(1)
 	for text, want := range map[string]string{
